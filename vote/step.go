@@ -4,6 +4,7 @@ import (
 	"slices"
 
 	"tessera/api"
+	"tessera/peers"
 )
 
 // Tick lets one tick go by: a member that has waited long enough campaigns.
@@ -11,7 +12,7 @@ func Tick(p api.Peer, draw int) (api.Peer, []api.Msg, api.Errno) {
 	if May(p) != api.OK || draw < 0 {
 		return api.Peer{}, nil, api.ErrArg
 	}
-	p = clone(p)
+	p = peers.Clone(p)
 	if p.Role == api.Leader {
 		return p, nil, api.OK
 	}
@@ -32,7 +33,7 @@ func Take(p api.Peer, m api.Msg) (api.Peer, []api.Msg, api.Errno) {
 	if do == nil {
 		return api.Peer{}, nil, api.ErrArg
 	}
-	p = clone(p)
+	p = peers.Clone(p)
 	if m.Term > p.Term {
 		p = standDown(p, m.Term)
 	}
@@ -45,7 +46,7 @@ func Down(p api.Peer, term uint64) (api.Peer, api.Errno) {
 	if May(p) != api.OK || term > most {
 		return api.Peer{}, api.ErrArg
 	}
-	return standDown(clone(p), term), api.OK
+	return standDown(peers.Clone(p), term), api.OK
 }
 
 // doing is what a message does to a member that has lists of its own, and what it sends.
