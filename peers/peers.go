@@ -1,4 +1,4 @@
-// Package peers copies members of a group and their entries, for the layers that hand them on: no list of a copy is another one's.
+// Package peers copies members of a group and their entries, compares entries, and has them as bytes, for the layers that hand them on.
 package peers
 
 import (
@@ -7,7 +7,7 @@ import (
 	"tessera/api"
 )
 
-// Clone is p with lists of its own.
+// Clone is p with lists of its own: none of them is another one's.
 func Clone(p api.Peer) api.Peer {
 	p.Members, p.BaseMembers = slices.Clone(p.Members), slices.Clone(p.BaseMembers)
 	p.Votes, p.Follows = slices.Clone(p.Votes), slices.Clone(p.Follows)
@@ -25,4 +25,9 @@ func Entries(l []api.Entry) []api.Entry {
 		l[at].Members = slices.Clone(l[at].Members)
 	}
 	return l
+}
+
+// SameEntry says whether two entries are the same in all.
+func SameEntry(a, b api.Entry) bool {
+	return a.Term == b.Term && a.Kind == b.Kind && a.Data == b.Data && slices.Equal(a.Members, b.Members)
 }
